@@ -378,6 +378,22 @@ func TestPagesApart(t *testing.T) {
 	check(t, "one that is new", page.New(), nil, 0)
 }
 
+// P0.5: a copy of a page is a page of its own: what either is told later is nothing to the other.
+func TestCopyOfPage(t *testing.T) {
+	for n := range 17 {
+		p := full(t, n)
+		q := *p
+		p.Add(numbered(20))
+		p.Cut(n / 2)
+		checkNumbers(t, "copy, the page changed", &q, 0, n)
+		p = full(t, n)
+		q = *p
+		q.Add(numbered(21))
+		q.Cut(n)
+		checkNumbers(t, "page, its copy changed", p, 0, n)
+	}
+}
+
 // overwrite writes into a list and its spare room.
 func overwrite(l []api.Cell) {
 	l = l[:cap(l)]
